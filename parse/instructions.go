@@ -66,6 +66,8 @@ func (p *parser) operand(op int) operand {
 	switch op {
 	case api.Call, api.Jmp:
 		if p.takes("*") {
+			// A $ begins an operand, though none for here: so it is the first thing that is wrong, not a displacement that is no expression.
+			insist(!isSign(p.peek(0), "$"))
 			return p.place()
 		}
 		return operand{Operand: p.target()}

@@ -280,8 +280,22 @@ func TestP1201Stars(t *testing.T) {
 	is(t, "jmp *f@gotpcrel(%rip)", jmp(false, rip("f", api.GotPcrel, 0)))
 	for _, name := range []string{"call", "jmp"} {
 		refused(t, api.ErrSyntax, name+" %rax", name+" *%eax", name+" *%al", name+" *%foo", name+" *%rip", name+" *f", name+" *8", name+" *f@plt", name+" *.+5", name+" *%rax %rbx", name+" *%fs:8(%rax)", name+" *(%rax) f", name+" *f g", name+" *short f", name+" *%rax, %rbx", name+" *%rax,", name+" *%rax, 5")
-		refused(t, api.ErrExpr, name+" *", name+" **%rax", name+" *$5", name+" *\"f\"", name+" *,", name+" *(%rax,%rbx,", name+" *()", name+" *%fs:", name+" f, *", name+" *%rax, *")
+		refused(t, api.ErrExpr, name+" *", name+" **%rax", name+" *\"f\"", name+" *,", name+" *(%rax,%rbx,", name+" *()", name+" *%fs:", name+" f, *", name+" *%rax, *")
+		refused(t, api.ErrExpr, name+" *+", name+" *-", name+" *)", name+" *@plt", name+" *: 5", name+" *+$5", name+" *%fs:$5", name+" *(%rax,%rbx,$1)", name+" f, *+")
 		refused(t, api.ErrForm, name+" *%rax, *%rbx", name+" *%rax, f", name+" f, *%rax", name+" *f(%rax)", name+" *(%rax,%rsp,1)", name+" *(%rax), .+5")
+	}
+}
+
+// TestP1201NoImmBehindStars: it is wrong at its $, whatever stands behind that.
+func TestP1201NoImmBehindStars(t *testing.T) {
+	for name := range calls() {
+		for _, behind := range []string{"5", "x", "", "+", "1 +", "1/0", "x + y", "$", "$5", "*", "%rax", "(%rax)", "5(%rip)", "\"f\"", ",", "5, %rax", "5, f", "5, *$5", "5, +", "5 5"} {
+			refused(t, api.ErrSyntax, name+" *$"+behind, name+" * $ "+behind, name+" f, *$"+behind, name+" f@plt, *$"+behind, name+" .+5, *$"+behind)
+		}
+		refused(t, api.ErrSyntax, name+" $", name+" $5", name+" $5, *%rax", name+" f, $")
+	}
+	for _, name := range []string{"call", "jmp", "jmp short"} {
+		refused(t, api.ErrSyntax, name+" *%rax, *$5", name+" *%rax, *$", name+" *8(%rax), *$x", name+" *%eax, *$5", name+" *(%rax,%rsp,1), *$", "nop; a: "+name+" *$5 # x")
 	}
 }
 

@@ -162,7 +162,7 @@ func TestP1201FirstThing(t *testing.T) {
 		".balign 4, 1 + ", ".balign 4 +, 256", ".zero 1 +, x", ".byte 1 +, 2 3", ".byte 1, (2 3", ".set a, 1; .set b, a +",
 		".cfi_offset 1 +, %eax", ".cfi_offset %rax, 1 +", ".file 1 + \"a\"", ".file \"a\" 0", ".loc 1 1 + ", ".loc 300 +",
 		"movq %eax, $1 +", "movq $1 +, %eax", "movb $256, 1 +", "shlq %rax, 1 +", "movzbl %eax, $", "pushq %eax, $", "ret %rax, $", "movq %eax, %fs:", "movq %eax, \"x\"", "popq %eax,", "movq $300, %fs:1 +",
-		"movq (%rax,%rsp,1 +", "movq (%rax,%rbx,), %foo", "movq %eax,", "movq %rax, , %rbx", "movq ,", "movq , %rax", "movq *%rax, %rbx", "movq (,%rax,1), %rax", "movq (x, %rax", "movq 8+(%rax), %rbx", "movq \"x\"", "nop \"x\"", "ret ,", "call *,", "call *", "jmp *$1", "call *\"x\"", "movq -(%rax), %rax",
+		"movq (%rax,%rsp,1 +", "movq (%rax,%rbx,), %foo", "movq %eax,", "movq %rax, , %rbx", "movq ,", "movq , %rax", "movq *%rax, %rbx", "movq (,%rax,1), %rax", "movq (x, %rax", "movq 8+(%rax), %rbx", "movq \"x\"", "nop \"x\"", "ret ,", "call *,", "call *", "jmp *+", "call *\"x\"", "movq -(%rax), %rax",
 	)
 	refused(t, api.ErrSyntax, "movq %eax, $300, %al", "movb $256, %eax", "movb %eax, (%rax,%rsp,1)", "leaq %fs:0, %eax", "ret %rax", "cqto %eax", "nop %al")
 	refused(t, api.ErrForm, "movq (%rax,%rsp,1), $5", "ret $5", "nop (%rax)", "movb $256, %al", "movb $-129, %al")

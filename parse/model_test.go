@@ -34,7 +34,7 @@ func rules() map[string][]string {
 		".tlsgd": {"name"}, ".tlsld": {""},
 
 		"any": {"", "begin <operand>", "begin <operand> , begin <operand>"}, "call": {"", "begin <goes>", "begin <goes> , begin <goes>"}, "jcc": {"", "begin <target>", "begin <target> , begin <target>"},
-		"operand": {"<place>", "$ imm"}, "goes": {"<target>", "* <place>"},
+		"operand": {"<place>", "$ imm"}, "goes": {"<target>", "* !$ <place>"},
 		"place":  {"reg", "<mem>"},
 		"mem":    {"%fs : <disp>", "(% <in> )", "<disp> ( <in> )"},
 		"in":     {"%rip", "base", "base , index , scale"},
@@ -103,13 +103,19 @@ func (m *matcher) run(row string, at int, found []event) ([]event, bool) {
 	return m.run(rest, end, append(found[:len(found):len(found)], ev))
 }
 
-// element: one that is no rule; what it found, and where it ends.
+// element: one that is no rule; what it found, and where it ends. (begin and !$ go past nothing: the latter bars an Imm, which is of another shape ahead of all that is awaited.)
 func (m *matcher) element(what string, at int) (event, int, bool) {
 	t := m.token(at)
 	right, kind := true, lexer.Name
 	ev := event{what: what, text: t.Text}
 	switch what {
 	case "begin":
+		return ev, at, true
+	case "!$":
+		if t.Kind == lexer.Sign && t.Text == "$" {
+			m.fail(at, true, api.ErrSyntax)
+			return event{}, 0, false
+		}
 		return ev, at, true
 	case ",", "@", ":", "(", ")", "$", "*":
 		kind, right = lexer.Sign, true
